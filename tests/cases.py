@@ -78,6 +78,39 @@ def rows_to(last):
     return tuple(row_of(number) for number in range(2, last + 1))
 
 
+def is_prime_kind(number):
+    """Whether a number below 3 * 10 ** 24 is a prime: no parted one passes with all these bases."""
+    bases = (2, 3, 5, 7, 11, 13, 17, 19, 23, 29, 31, 37, 41)
+    if number < 2 or any(number % base == 0 for base in bases):
+        return number in bases
+    odd = number - 1
+    twos = 0
+    while odd % 2 == 0:
+        odd //= 2
+        twos += 1
+    for base in bases:
+        left = pow(base, odd, number)
+        if left != 1 and all(pow(left, 2 ** k, number) != number - 1 for k in range(twos)):
+            return False
+    return True
+
+
+def needed(row):
+    """The numbers that a row needs, told anew from its facts."""
+    return [q for q, _ in row[2][1]] if row[1] == "prime" else []
+
+
+def stood_on(rows, number):
+    """The numbers on which a row stands, told anew: added until no more come."""
+    rows = {row[0]: row for row in rows}
+    found = set(needed(rows[number]))
+    while True:
+        more = found.union(*(needed(rows[q]) for q in found))
+        if more == found:
+            return sorted(found)
+        found = more
+
+
 def spoilt_numbers(low, high):
     """What may not stand where a number from low to high stands."""
     return [low - 1, high + 1, -low, -high, 0, True, False, None, float(low), str(low), [low], (low,), ()]
@@ -85,6 +118,9 @@ def spoilt_numbers(low, high):
 
 def shown(thing):
     """A thing as a failing test names it, cut where it is long."""
+    # Python itself refuses to write whole numbers of some thousands of figures.
+    if type(thing) is int and abs(thing) > 10 ** 100:
+        return "a very long number"
     text = repr(thing)
     return text if len(text) <= 300 else f"{text[:200]} .. {text[-90:]}"
 

@@ -14,8 +14,18 @@ FUNCTIONS = {
     "powers": {"powered": ["base", "exponent", "by"], "least_divisor": ["number"]},
     "rows": {"is_row": ["thing"], "tells_prime": ["row"], "needs": ["row"], "holds": ["row", "primes"]},
     "slips": {"is_slip": ["thing"], "says": ["slip"], "wrong_at": ["slip"], "lets_by": ["thing"]},
+    "parts": {"stands_on": ["slip", "number"], "cut": ["slip", "number"], "merged": ["slips"]},
+    "making": {"made": ["number"], "grown": ["number", "base", "slips"]},
+    "texts": {"written": ["slip"], "read": ["text"]},
 }
-CLASSES = {"errors": ["SlipError", "NoNumber", "NoSlip", "NoRow", "NotHeld", "Needed", "NoText"]}
+CLASSES = {
+    "errors": ["SlipError", "NoNumber", "NoSlip", "NoRow", "NotHeld", "Needed", "NoText"],
+    "shelf": ["Shelf"],
+}
+METHODS = {
+    "put": ["self", "thing"], "told": ["self", "number"], "numbers": ["self"], "slip": ["self", "number"],
+    "drop": ["self", "number"],
+}
 LIBRARY = {"heapq", "math", "itertools", "collections", "__future__"}
 
 
@@ -39,6 +49,14 @@ class Interface(unittest.TestCase):
             for name in names:
                 with self.subTest(module=module, name=name):
                     self.assertIn(name, defined_in(module, ast.ClassDef))
+
+    def test_each_method_stands_in_the_shelf_itself(self):
+        shelf = importlib.import_module("primeslip.shelf").Shelf
+        for name, arguments in METHODS.items():
+            with self.subTest(name=name):
+                self.assertTrue(inspect.isfunction(vars(shelf)[name]))
+                self.assertEqual(list(inspect.signature(vars(shelf)[name]).parameters), arguments)
+        self.assertEqual(list(inspect.signature(shelf).parameters), [])
 
 
 class Form(unittest.TestCase):
@@ -80,7 +98,7 @@ class Form(unittest.TestCase):
                 continue
             taken = getattr(node, "arg", None) or getattr(node, "id", None) or node.name
             with self.subTest(file=name, line=node.lineno):
-                self.assertFalse(hasattr(builtins, taken), taken)
+                self.assertTrue(taken == "__init__" or not hasattr(builtins, taken), taken)
 
     def test_what_stands_at_module_level(self):
         for file in FILES:
